@@ -28,19 +28,66 @@ func Node(left string, right string) string {
 
 // Root is the hash of the entries' tree.
 func Root(entries []string) string {
-	switch len(entries) {
+	leaves := make([]string, len(entries))
+	for i, entry := range entries {
+		leaves[i] = Leaf(entry)
+	}
+	return Join(leaves...)
+}
+
+// Join is the hash of the tree that has these trees, all of one size, side by side.
+func Join(hashes ...string) string {
+	switch len(hashes) {
 	case 0:
 		return digest.Of()
 	case 1:
-		return Leaf(entries[0])
+		return hashes[0]
 	}
-	k := split(len(entries))
-	return Node(Root(entries[:k]), Root(entries[k:]))
+	k := Split(len(hashes))
+	return Node(Join(hashes[:k]...), Join(hashes[k:]...))
 }
 
-// split is the greatest power of 2 below n, which is above 1.
-func split(n int) int {
+// Split is the greatest power of 2 below n, which is above 1: so many of n entries stand in the left one of the two lesser trees.
+func Split(n int) int {
 	return 1 << (bits.Len(uint(n-1)) - 1)
+}
+
+// Span tells the hash of the tree of the entries from one number on, up to another.
+type Span func(from int, to int) string
+
+// Inclusion is the list that shows that entry i is among the first n.
+func Inclusion(i int, n int, span Span) []string {
+	return besideEntry(i, 0, n, span)
+}
+
+func besideEntry(i int, from int, to int, span Span) []string {
+	if to-from == 1 {
+		return nil
+	}
+	middle := from + Split(to-from)
+	if i < middle {
+		return append(besideEntry(i, from, middle, span), span(middle, to))
+	}
+	return append(besideEntry(i, middle, to, span), span(from, middle))
+}
+
+// Consistency is the list that shows that the first n entries begin with the first m.
+func Consistency(m int, n int, span Span) []string {
+	return besideStart(m, 0, n, span)
+}
+
+func besideStart(m int, from int, to int, span Span) []string {
+	if m == to && from == 0 {
+		return nil // these are all of the first m: who asks has their hash
+	}
+	if m == to {
+		return []string{span(from, to)}
+	}
+	middle := from + Split(to-from)
+	if m <= middle {
+		return append(besideStart(m, from, middle, span), span(middle, to))
+	}
+	return append(besideStart(m, middle, to, span), span(from, middle))
 }
 
 // Included tells whether the list shows that leaf is the i-th of n entries, whose tree has the hash root.

@@ -43,10 +43,15 @@ func keeps() []int {
 // torn: the disk, wherever it fails in a call, and whatever it keeps then.
 func torn(t *testing.T, d deed, each func(bytes string)) {
 	t.Helper()
+	tornBy(t, d, keeps(), each)
+}
+
+func tornBy(t *testing.T, d deed, keeps []int, each func(bytes string)) {
+	t.Helper()
 	acts, _ := actsOf(t, d.make(), d.call)
 	for after := range acts {
 		seen := map[string]bool{}
-		for _, keep := range keeps() {
+		for _, keep := range keeps {
 			bytes := failedAt(t, d, after, keep)
 			if !seen[bytes] {
 				seen[bytes] = true
@@ -92,6 +97,11 @@ func flushDeed(t *testing.T, bytes string, entries []string) deed {
 	}, flush}
 }
 
+// recoverDeed: the Recover of what is pending on a disk.
+func recoverDeed(t *testing.T, bytes string) deed {
+	return deed{"Recover", func() *grove.Log { return openedLog(t, bytes) }, recovered}
+}
+
 func TestFlushInWhichTheDiskFails(t *testing.T) {
 	for _, c := range [][2]int{{0, 1}, {0, 12}, {3, 4}, {3, 15}, {14, 17}, {15, 27}} {
 		w := tellingOf(logEntries(c[1]))
@@ -100,12 +110,21 @@ func TestFlushInWhichTheDiskFails(t *testing.T) {
 	}
 }
 
+// The same where the growth fills the greatest tiles.
+func TestFlushOfTheLastEntriesInWhichTheDiskFails(t *testing.T) {
+	w := tellingOf(logEntries(api.MaxLog))
+	for _, n := range []int{api.MaxLog - api.MaxQueue, api.MaxLog - 1} {
+		bytes := grownLog(t, w.entries[:n], 7).Bytes()
+		tornBy(t, flushDeed(t, bytes, w.entries[n:]), []int{0, -1, 0x155555}, func(bytes string) { wantTorn(t, bytes, w, n, api.MaxLog) })
+	}
+}
+
 func TestRecoverInWhichTheDiskFails(t *testing.T) {
 	for _, c := range [][2]int{{0, 12}, {3, 4}, {14, 17}} {
 		w := tellingOf(logEntries(c[1]))
 		for _, n := range c {
 			bytes := pendingLog(t, w.entries[:c[0]], w.entries[c[0]:], n).Bytes()
-			torn(t, deed{"Recover", func() *grove.Log { return openedLog(t, bytes) }, recovered}, func(bytes string) {
+			torn(t, recoverDeed(t, bytes), func(bytes string) {
 				x := openedLog(t, bytes)
 				if count, _, _ := x.Checkpoint(); !pending(x) && count != c[1] {
 					t.Errorf("P13: nothing is pending behind a Recover, and %d entries of %d are there", count, c[1])
@@ -114,6 +133,64 @@ func TestRecoverInWhichTheDiskFails(t *testing.T) {
 			})
 		}
 	}
+}
+
+// A Recover that failed is begun anew, fails at any other act, and so on: the Flush is pending still, or done.
+func TestRecoverFailsAgainAndAgain(t *testing.T) {
+	w := tellingOf(logEntries(10))
+	single := []int{0, -1, 1, 2, 4, 8, 16, 32, 64}
+	seen := map[string]bool{}
+	var again func(bytes string)
+	again = func(bytes string) {
+		if seen[bytes] {
+			return
+		}
+		seen[bytes] = true
+		wantTorn(t, bytes, w, 3, 10)
+		x := openedLog(t, bytes)
+		if pending(x) {
+			tornBy(t, recoverDeed(t, bytes), single, again)
+		} else if n, _, _ := x.Checkpoint(); n != 10 {
+			t.Errorf("P13: nothing is pending behind a Recover, and %d entries of 10 are there", n)
+		}
+	}
+	again(pendingLog(t, w.entries[:3], w.entries[3:], 3).Bytes())
+	// Seven writes of bundles and tiles, of which any may last when Recover has failed often enough.
+	if len(seen) < 100 {
+		t.Errorf("P13: all failures of Recover leave but %d disks", len(seen))
+	}
+}
+
+// However often a Recover fails, the next one that does not ends it, and the disk is that of the Flush that did not fail.
+func TestRecoverEndsInTheEnd(t *testing.T) {
+	w := tellingOf(logEntries(20))
+	want := flushed(t, w.entries[:9], w.entries[9:])
+	for times := range 40 {
+		for _, n := range []int{9, 20} {
+			x := pendingLog(t, w.entries[:9], w.entries[9:], n)
+			for i := range times {
+				wantErrno(t, "P10: Fail", x.Fail(i*7%23, i*times*0x9e37), api.OK)
+				if x.Recover() == api.OK {
+					break
+				}
+				x = openedLog(t, x.Bytes())
+			}
+			wantErrno(t, "P10: Fail", x.Fail(500, 0), api.OK)
+			wantErrno(t, "P13: Recover", x.Recover(), api.OK)
+			if x.Bytes() != want {
+				t.Errorf("P13: the disk behind %d Recovers is not that behind the Flush", times+1)
+			}
+			tells(t, x, w, 20)
+		}
+	}
+}
+
+// flushed: the disk behind a Flush of more.
+func flushed(t *testing.T, entries, more []string) string {
+	t.Helper()
+	x := grownLog(t, entries, api.MaxQueue)
+	grow(t, x, more...)
+	return x.Bytes()
 }
 
 // A Flush that was torn ahead of its being pending leaves nothing that mixes with the next one, which has some of the same entries.
@@ -144,9 +221,7 @@ func TestRecoveredLogGoesOn(t *testing.T) {
 	for _, n := range []int{9, 18} {
 		x := pendingLog(t, w.entries[:9], w.entries[9:18], n)
 		wantErrno(t, "P13: Recover", x.Recover(), api.OK)
-		y := grownLog(t, w.entries[:9], api.MaxQueue)
-		grow(t, y, w.entries[9:18]...)
-		if x.Bytes() != y.Bytes() {
+		if x.Bytes() != flushed(t, w.entries[:9], w.entries[9:18]) {
 			t.Error("P13: the disk behind a Recover is not that behind the Flush")
 		}
 		grow(t, x, w.entries[18:]...)
